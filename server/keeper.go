@@ -1,6 +1,7 @@
 package server
 
 import (
+	"backwater/alike"
 	"backwater/api"
 	"backwater/bits"
 	"backwater/journal"
@@ -29,7 +30,7 @@ func (k keeper) kept() state {
 	if len(groups) == 0 {
 		return firstState()
 	}
-	s, ok := read(groups[len(groups)-1], takeState)
+	s, ok := readState(groups[len(groups)-1])
 	if !ok {
 		return firstState()
 	}
@@ -40,25 +41,9 @@ func (k keeper) kept() state {
 func (s *state) group() [][]byte {
 	snapshot, _ := record.Snapshot(s.snapshot)
 	hi, lo := bits.Unpack(s.version)
-	b := writeNumber(writeNumber(nil, hi), lo)
+	b := alike.WriteNumber(alike.WriteNumber(nil, hi), lo)
 	for _, count := range s.done {
-		b = writeNumber(b, count)
+		b = alike.WriteNumber(b, count)
 	}
-	b = append(b, byte(len(s.verdicts)))
-	for _, v := range s.verdicts {
-		b = writeVerdict(b, v)
-	}
-	return [][]byte{snapshot, b}
-}
-
-// writeVerdict writes a verdict behind b.
-func writeVerdict(b []byte, v api.Verdict) []byte {
-	alone, _ := record.Records([]api.Record{v.Record})
-	b = writeNumber(append(b, v.Client), v.Number)
-	return append(append(b, byte(v.Err)), alone...)
-}
-
-// writeNumber writes a number behind b, the highest byte first.
-func writeNumber(b []byte, n uint32) []byte {
-	return append(b, byte(n>>24), byte(n>>16), byte(n>>8), byte(n))
+	return [][]byte{snapshot, alike.WriteVerdicts(b, s.verdicts)}
 }

@@ -6,6 +6,7 @@ import (
 	"slices"
 	"testing"
 
+	"backwater/alike"
 	"backwater/api"
 	"backwater/disk"
 	"backwater/tree"
@@ -179,7 +180,7 @@ func TestLikeTheModel(t *testing.T) { // P12.2, P12.3, P12.5, P12.6, E2, E4
 				stale++
 			}
 		}
-		if len(s.Rejected()) == mostVerdicts {
+		if len(s.Rejected()) == alike.MostVerdicts {
 			forgotten++
 		}
 	}

@@ -1,19 +1,9 @@
 package server
 
 import (
-	"strings"
-
+	"backwater/alike"
 	"backwater/api"
 	"backwater/record"
-)
-
-// The first byte of a body tells what it is.
-const (
-	fetchMark   = "F"
-	fetchedMark = "f"
-	shipMark    = "S"
-	shippedMark = "s"
-	errorMark   = "e"
 )
 
 // shipment is what a body asks to be shipped.
@@ -27,10 +17,10 @@ func (s *Server) Serve(client uint8, body string) string {
 	if s == nil {
 		return ""
 	}
-	if body == fetchMark {
-		return fetchedMark + s.report(client)
+	if body == alike.Fetch {
+		return alike.Fetched + s.report(client)
 	}
-	asked, ok := read(body, takeShipment)
+	asked, ok := alike.Read([]byte(body), takeShipment)
 	if !ok {
 		return refusal(api.ErrForm)
 	}
@@ -38,25 +28,20 @@ func (s *Server) Serve(client uint8, body string) string {
 	if err != api.OK {
 		return refusal(err)
 	}
-	return shippedMark + told(errs) + s.report(client)
+	return alike.Shipped + told(errs) + s.report(client)
 }
 
-// takeShipment is what a body asks to be shipped; it gives up, if it asks for something else.
-func takeShipment(body string) shipment {
-	text, ok := strings.CutPrefix(body, shipMark)
-	giveUpIf(!ok)
-	r := &reader{rest: []byte(text)}
-	first := r.number()
-	l, err := record.ReadRecords(r.rest)
-	giveUpIf(err != api.OK)
-	return shipment{first: first, records: l}
+// takeShipment takes off what a body asks to be shipped; it gives up, if that asks for something else.
+func takeShipment(r *alike.Reader) shipment {
+	r.GiveUpIf(r.Mark() != alike.Ship)
+	return shipment{first: r.Number(), records: r.Records()}
 }
 
 // report is how far a client is, and the snapshot.
 func (s *Server) report(client uint8) string {
 	// A state's snapshot is right, so that its bytes have no error.
 	snapshot, _ := record.Snapshot(s.snapshot)
-	return string(append(writeNumber(nil, s.Applied(client)), snapshot...))
+	return string(append(alike.WriteNumber(nil, s.Applied(client)), snapshot...))
 }
 
 // told are errors as bytes.
@@ -70,5 +55,5 @@ func told(errs []api.Errno) string {
 
 // refusal is the answer to what is not done.
 func refusal(err api.Errno) string {
-	return errorMark + string([]byte{byte(err)})
+	return alike.Refused + string([]byte{byte(err)})
 }

@@ -7,6 +7,7 @@ import (
 	"strconv"
 	"testing"
 
+	"backwater/alike"
 	"backwater/api"
 	"backwater/disk"
 	"backwater/journal"
@@ -510,7 +511,7 @@ func TestFork(t *testing.T) { // P12.3, P4
 func full(t *testing.T, d *disk.Disk) *Server {
 	t.Helper()
 	s := Open(d)
-	for s.Applied(1) < mostVerdicts {
+	for s.Applied(1) < alike.MostVerdicts {
 		wantShip(t, s, 1, s.Applied(1)+1, records(1), api.ErrNoent)
 	}
 	return s

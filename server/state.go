@@ -3,13 +3,9 @@ package server
 import (
 	"slices"
 
+	"backwater/alike"
 	"backwater/api"
 	"backwater/tree"
-)
-
-const (
-	firstVersion = 1
-	mostVerdicts = 64
 )
 
 // state is what a server keeps.
@@ -22,11 +18,7 @@ type state struct {
 
 // firstState is the state of a server that has done nothing.
 func firstState() state {
-	root := api.Stamp{Fid: api.Root, Version: firstVersion}
-	return state{
-		snapshot: api.Snapshot{Tree: tree.New(), Versions: []api.Stamp{root}},
-		version:  firstVersion,
-	}
+	return state{snapshot: alike.FirstSnapshot(), version: alike.FirstVersion}
 }
 
 // copied is the same state, with lists of its own.
@@ -76,17 +68,10 @@ func (s *state) do(client uint8, number uint32, r api.Record) api.Errno {
 	s.done[client-1] = number
 	err := s.try(client, r)
 	if err != api.OK {
-		s.refuse(api.Verdict{Client: client, Number: number, Err: err, Record: r})
+		v := api.Verdict{Client: client, Number: number, Err: err, Record: r}
+		s.verdicts = alike.AddVerdict(s.verdicts, v)
 	}
 	return err
-}
-
-// refuse holds a verdict; of too many the eldest one goes.
-func (s *state) refuse(v api.Verdict) {
-	if len(s.verdicts) == mostVerdicts {
-		s.verdicts = slices.Delete(s.verdicts, 0, 1)
-	}
-	s.verdicts = append(s.verdicts, v)
 }
 
 // try does to the tree what a record says, unless that is to be refused.
