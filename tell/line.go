@@ -69,8 +69,11 @@ func readLine(s string) (api.Node, bool) {
 	kind, okKind := kindOf(parts[1])
 	mode, okMode := digits.Read(parts[2], math.MaxUint16)
 	links, okLinks := digits.Read(parts[3], math.MaxUint16)
-	n := api.Node{Fid: api.Fid(fid), Kind: kind, Mode: uint16(mode), Links: uint16(links)}
-	return n, okFid && okKind && okMode && okLinks && readInside(&n, parts[4])
+	data, kids, okInside := readInside(kind, parts[4])
+	if !okFid || !okKind || !okMode || !okLinks || !okInside {
+		return api.Node{}, false
+	}
+	return api.Node{Fid: api.Fid(fid), Kind: kind, Mode: uint16(mode), Links: uint16(links), Data: data, Kids: kids}, true
 }
 
 // kindOf is the kind that a word calls; false, if there is none.
@@ -83,26 +86,41 @@ func kindOf(word string) (api.Kind, bool) {
 	return api.NoKind, false
 }
 
-// readInside puts into a node what a text says that it has inside; false, if that says nothing of its kind.
-func readInside(n *api.Node, s string) bool {
-	if n.Kind != api.Dir {
-		data, err := Unquote(s)
-		n.Data = bytesOf(data)
-		return err == api.OK
+// readInside is what a text says that a node of a kind has inside; false, if that says nothing of the kind.
+func readInside(k api.Kind, s string) (data []byte, kids []api.Kid, ok bool) {
+	if k == api.Dir {
+		kids, ok = readKids(s)
+		return nil, kids, ok
 	}
+	data, ok = readData(s)
+	return data, nil, ok
+}
+
+// readData are the bytes that a text has in quotes; false, if it is not in quotes.
+func readData(s string) ([]byte, bool) {
+	data, err := Unquote(s)
+	if err != api.OK {
+		return nil, false
+	}
+	return bytesOf(data), true
+}
+
+// readKids are the entries that a text says; false, if it says something else, or more than a node may have.
+func readKids(s string) ([]api.Kid, bool) {
 	if s == noKids {
-		return true
+		return nil, true
 	}
+	var kids []api.Kid
 	for more := true; more; {
 		var entry string
 		entry, s, more = strings.Cut(s, between)
 		k, ok := readKid(entry)
-		if !ok || len(n.Kids) == api.MaxKids {
-			return false
+		if !ok || len(kids) == api.MaxKids {
+			return nil, false
 		}
-		n.Kids = append(n.Kids, k)
+		kids = append(kids, k)
 	}
-	return true
+	return kids, true
 }
 
 // bytesOf is a text, copied into bytes.

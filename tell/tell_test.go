@@ -202,6 +202,21 @@ func TestLineOfWrongNodes(t *testing.T) { // P15.1, P2, P1
 	}
 }
 
+func TestReadHasWhatIsInside(t *testing.T) { // P15.1: each node comes with its entries or its Data
+	for s, want := range map[string][]api.Node{
+		"1 dir 0 0 a=2\n2 file 0 1 \"x\"\n": {
+			{Fid: 1, Kind: api.Dir, Kids: []api.Kid{{Name: "a", Fid: 2}}}, {Fid: 2, Kind: api.File, Links: 1, Data: []byte("x")}},
+		"1 dir 0 0 a=2\n2 link 0 1 \"/a\"\n": {
+			{Fid: 1, Kind: api.Dir, Kids: []api.Kid{{Name: "a", Fid: 2}}}, {Fid: 2, Kind: api.Link, Links: 1, Data: []byte("/a")}},
+		"1 dir 0 0 a=2,b=3\n2 dir 9 1 -\n3 file 0 1 \"\\00\"\n": {
+			{Fid: 1, Kind: api.Dir, Kids: []api.Kid{{Name: "a", Fid: 2}, {Name: "b", Fid: 3}}}, {Fid: 2, Kind: api.Dir, Mode: 9, Links: 1}, {Fid: 3, Kind: api.File, Links: 1, Data: []byte{0}}},
+	} {
+		if got, err := Read(s); !tree.Same(got, want) || err != api.OK {
+			t.Errorf("Read(%q) = %v, error %d, want %v", s, got, err, want)
+		}
+	}
+}
+
 func TestReadOfWrongTexts(t *testing.T) { // P15.1, P5, P1
 	for _, s := range []string{
 		"", "\n", " ", "x", "x\n", "\xff\n", "1 dir 0 0 -", "1 dir 0 0 -\n\n", "\n1 dir 0 0 -\n", "1 dir 0 0 -\n1 dir 0 0 -\n", "1 dir 0 0 -\r\n", "1 dir 0 0 -\n ", "1 dir 0 0 -\nx",
